@@ -781,6 +781,12 @@ func TestLink(t *testing.T) {
 	holdRows(t, w, map[string][]row{
 		"by the new name": {{self, link(23, 21, root), api.OK}, {self, link(23, 21, open), api.ErrThere}, {self, unref(open, 21), api.OK}, {self, kind(23, 21), api.OK}},
 	})
+	// A container that is fixed keeps its Quota, and takes what has room in it.
+	w = with(house(), open, func(d *api.Object) { d.Fixed = true })
+	holdRows(t, w, map[string][]row{
+		"to a container that is fixed": {{self, link(root, 13, open), api.OK}, {self, mkCont(open, 0, 32), api.OK}, {self, mkCont(open, 0, 33), api.ErrQuota}, {self, unref(open, 20), api.OK}},
+		"itself":                       {{self, link(root, open, 23), api.ErrKind}, {self, fix(root, open), api.ErrKind}, {self, move(root, open, 1), api.ErrBusy}, {self, unref(root, open), api.OK}},
+	})
 }
 
 // P20.1: Fix, of each kind, and of what is hidden, or may not be changed.
