@@ -54,12 +54,15 @@ func (c *Caller) Answer(made func() uint64) (api.World, uint64, api.Errno, bool)
 	return c.World, value, err, true
 }
 
-// Lab is the label of the register that an argument names.
-func (c *Caller) Lab(at int) api.Label {
+// Register is the label register that an argument names.
+func (c *Caller) Register(at int) *api.Label {
 	k := c.Args[at]
 	Need(k < uint64(len(c.Thread.Labs)), api.ErrArg)
-	return c.Thread.Labs[k]
+	return &c.Thread.Labs[k]
 }
+
+// Lab is the label that stands there.
+func (c *Caller) Lab(at int) api.Label { return *c.Register(at) }
 
 // Dir is the container of an Id.
 func (c *Caller) Dir(id uint64, write bool) api.Object {
@@ -68,26 +71,26 @@ func (c *Caller) Dir(id uint64, write bool) api.Object {
 	return d
 }
 
-// named is the name that the first two arguments are.
-func (c *Caller) named() api.Ref { return api.Ref{Cont: c.Args[0], Id: c.Args[1]} }
+// Named is the name that the first two arguments are, whatever it names.
+func (c *Caller) Named() api.Ref { return api.Ref{Cont: c.Args[0], Id: c.Args[1]} }
 
 // Look is what the first two arguments name.
 func (c *Caller) Look() api.Object {
-	o, err := reach.Look(c.World, c.Object, c.named())
+	o, err := reach.Look(c.World, c.Object, c.Named())
 	Must(err)
 	return o
 }
 
 // See is what they name, of a kind (0: of any), if the caller may see it.
 func (c *Caller) See(kind int) api.Object {
-	o, err := reach.See(c.World, c.Object, c.named(), kind)
+	o, err := reach.See(c.World, c.Object, c.Named(), kind)
 	Must(err)
 	return o
 }
 
 // Change is what they name, of a kind (0: of any), if the caller may change it.
 func (c *Caller) Change(kind int) api.Object {
-	o, err := reach.Change(c.World, c.Object, c.named(), kind)
+	o, err := reach.Change(c.World, c.Object, c.Named(), kind)
 	Must(err)
 	return o
 }
@@ -99,11 +102,17 @@ func (c *Caller) Becomes(w api.World, err api.Errno) uint64 {
 	return 0
 }
 
+// Lays puts an object in the place of what it was, unless there is an error.
+func (c *Caller) Lays(o api.Object, err api.Errno) uint64 {
+	Must(err)
+	return c.Becomes(obj.Put(c.World, o), api.OK)
+}
+
 // Creates tells whether the caller may make a thing of a label.
 func (c *Caller) Creates(l api.Label) bool { return check.Create(c.Label, c.Thread.Clear, l) }
 
-// name is taken of the caller's numbers. It tells nothing of what others took: each has numbers of its own.
-func (c *Caller) name() uint64 {
+// Name is taken of the caller's numbers. It tells nothing of what others took: each has numbers of its own.
+func (c *Caller) Name() uint64 {
 	n, left, err := serial.Take(c.Thread.Span)
 	Must(err)
 	c.Thread.Span = left
@@ -112,7 +121,7 @@ func (c *Caller) name() uint64 {
 
 // Attach gives a new object its name, and a place in a container. The caller's numbers are others only together with that.
 func (c *Caller) Attach(d uint64, o api.Object) uint64 {
-	o.Id = c.name()
+	o.Id = c.Name()
 	c.Becomes(tree.Attach(obj.Put(c.World, c.Object), d, o))
 	return o.Id
 }

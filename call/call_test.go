@@ -7,6 +7,7 @@ import (
 	"curtilage/api"
 	"curtilage/call"
 	"curtilage/obj"
+	"curtilage/perm"
 )
 
 // house is a Root with a thread (2) that has one number left, and a segment (3).
@@ -45,6 +46,43 @@ func TestLab(t *testing.T) {
 		if _, _, err, _ := c.Answer(func() uint64 { c.Lab(at); return 0 }); err != api.ErrArg {
 			t.Errorf("argument %d: error %d", at, err)
 		}
+	}
+}
+
+// What is put in a register stands there, and in no other one; the world has it once the caller is laid there.
+func TestRegister(t *testing.T) {
+	c := call.New(house(), 2, api.Args{1})
+	*c.Register(0) = api.Label{{Cat: 9, Lev: api.Star}}
+	if l := c.Thread.Labs; len(l[0])+len(l[2]) > 0 || !reflect.DeepEqual(c.Lab(0), l[1]) || l[1][0].Cat != 9 || !obj.Same(c.World, house()) {
+		t.Errorf("the registers are %v", l)
+	}
+	w, value, err, ok := c.Answer(func() uint64 { return c.Lays(c.Object, api.OK) })
+	if o, _ := obj.Find(w, 2); value != 0 || err != api.OK || !ok || !obj.SameOne(o, c.Object) {
+		t.Errorf("value %d, error %d: %v", value, err, o)
+	}
+}
+
+// Beside an error nothing is laid.
+func TestLays(t *testing.T) {
+	c := call.New(house(), 2, api.Args{})
+	c.Thread.Pc = 5
+	w, value, err, ok := c.Answer(func() uint64 { return c.Lays(c.Object, api.ErrRange) })
+	if value != 0 || err != api.ErrRange || !ok || !obj.Same(w, house()) {
+		t.Errorf("value %d, error %d", value, err)
+	}
+}
+
+// Names are of the caller's numbers, one after another; the world's are others only with the caller.
+func TestName(t *testing.T) {
+	c := call.New(house(), 2, api.Args{8, 9})
+	if n := c.Name(); perm.Number(4, n) != 5 || c.Thread.Span != (api.Span{Lo: 6, Hi: 6}) || !obj.Same(c.World, house()) {
+		t.Errorf("the name is %d, %v are left", n, c.Thread.Span)
+	}
+	if _, value, err, _ := c.Answer(c.Name); value != 0 || err != api.ErrSerial {
+		t.Errorf("one more: %d, error %d", value, err)
+	}
+	if c.Named() != (api.Ref{Cont: 8, Id: 9}) {
+		t.Errorf("named is %v", c.Named())
 	}
 }
 
